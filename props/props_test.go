@@ -155,6 +155,24 @@ func TestClassAtEndsOfRanges(t *testing.T) {
 	}
 }
 
+// The order of the program's table tells nothing: no character stands in it twice, and no range is empty.
+func TestRangesAreApart(t *testing.T) {
+	seen := map[rune]bool{}
+	for _, g := range ranges() {
+		for _, s := range g.spans {
+			if s.first > s.last || s.first < 0 || s.last > 0x10FFFF {
+				t.Errorf("%X to %X is no range", s.first, s.last)
+			}
+			for r := s.first; r <= s.last; r++ {
+				if seen[r] {
+					t.Errorf("%X stands in the table twice", r)
+				}
+				seen[r] = true
+			}
+		}
+	}
+}
+
 func TestClassExamples(t *testing.T) {
 	for _, x := range []struct {
 		r    rune
