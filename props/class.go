@@ -1,6 +1,7 @@
 package props
 
 import (
+	"sort"
 	"sync"
 	"sync/atomic"
 
@@ -29,6 +30,16 @@ var (
 
 // Class tells a character's bidi class.
 func Class(r rune) api.Class {
+	spans := ranges()
+	i := sort.Search(len(spans), func(i int) bool { return r <= spans[i].last })
+	if i < len(spans) && spans[i].first <= r {
+		return spans[i].class
+	}
+	return api.L
+}
+
+// LookUp tells what Class tells, in two stages.
+func LookUp(r rune) api.Class {
 	if r < 0 || r >= blockCount*blockSize {
 		return api.L
 	}
@@ -36,17 +47,21 @@ func Class(r rune) api.Class {
 	return classes.blocks[classes.which[r/blockSize]][r%blockSize]
 }
 
+// Builds tells how often the lookup was made. It asks for the lookup first, so that its answer does not hang on who else asks.
+func Builds() int {
+	once.Do(build)
+	return int(builds.Load())
+}
+
 func build() {
 	builds.Add(1)
 	classes = newLookup(ranges())
 }
 
-func newLookup(groups []group) lookup {
+func newLookup(spans [spanCount]span) lookup {
 	l := lookup{blocks: []block{plain()}}
-	for _, g := range groups {
-		for _, s := range g.spans {
-			l.put(s, g.class)
-		}
+	for _, s := range spans {
+		l.put(s)
 	}
 	return l
 }
@@ -61,13 +76,13 @@ func plain() block {
 }
 
 // put gives a block of its own to each 256 characters that the span touches first.
-func (l *lookup) put(s span, c api.Class) {
+func (l *lookup) put(s span) {
 	for r := s.first; r <= s.last; r++ {
 		at := r / blockSize
 		if l.which[at] == 0 {
 			l.which[at] = uint8(len(l.blocks))
 			l.blocks = append(l.blocks, plain())
 		}
-		l.blocks[l.which[at]][r%blockSize] = c
+		l.blocks[l.which[at]][r%blockSize] = s.class
 	}
 }

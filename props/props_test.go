@@ -4,6 +4,7 @@ import (
 	"math"
 	"strconv"
 	"strings"
+	"sync"
 	"testing"
 
 	"selvedge/api"
@@ -133,6 +134,12 @@ func TestClassOfEveryRune(t *testing.T) {
 	}
 }
 
+// tellers are the two ways in which the package tells a class: they say the same.
+var tellers = []struct {
+	name string
+	tell func(rune) api.Class
+}{{"Class", Class}, {"LookUp", LookUp}}
+
 func TestClassAtEndsOfRanges(t *testing.T) {
 	rows := chart(t)
 	look := func(r rune) api.Class {
@@ -143,33 +150,25 @@ func TestClassAtEndsOfRanges(t *testing.T) {
 		}
 		return api.L
 	}
-	for _, x := range rows {
-		if Class(x.first) != x.class || Class(x.last) != x.class {
-			t.Errorf("%X to %X: %d, %d, want %d", x.first, x.last, Class(x.first), Class(x.last), x.class)
-		}
-		for _, r := range []rune{x.first - 1, x.last + 1} {
-			if c := Class(r); c != look(r) {
-				t.Errorf("beside %X to %X: Class(%X) = %d, want %d", x.first, x.last, r, c, look(r))
+	for _, teller := range tellers {
+		for _, x := range rows {
+			for _, r := range []rune{x.first - 1, x.first, x.last, x.last + 1} {
+				if c := teller.tell(r); c != look(r) {
+					t.Errorf("at %X to %X: %s(%X) = %d, want %d", x.first, x.last, teller.name, r, c, look(r))
+				}
 			}
 		}
 	}
 }
 
-// The order of the program's table tells nothing: no character stands in it twice, and no range is empty.
-func TestRangesAreApart(t *testing.T) {
-	seen := map[rune]bool{}
-	for _, g := range ranges() {
-		for _, s := range g.spans {
-			if s.first > s.last || s.first < 0 || s.last > 0x10FFFF {
-				t.Errorf("%X to %X is no range", s.first, s.last)
-			}
-			for r := s.first; r <= s.last; r++ {
-				if seen[r] {
-					t.Errorf("%X stands in the table twice", r)
-				}
-				seen[r] = true
-			}
+// Class searches by halves: each of the program's ranges is none that is empty, and stands behind the one ahead of it.
+func TestRangesRise(t *testing.T) {
+	last := rune(-1)
+	for _, s := range ranges() {
+		if s.first <= last || s.first > s.last || s.last > 0x10FFFF {
+			t.Errorf("%X to %X stands behind %X", s.first, s.last, last)
 		}
+		last = s.last
 	}
 }
 
@@ -190,20 +189,48 @@ func TestClassExamples(t *testing.T) {
 }
 
 func TestClassOfWhatIsNoCharacter(t *testing.T) {
-	for _, r := range strange {
-		if c := Class(r); c != api.L {
-			t.Errorf("Class(%d) = %d", r, c)
+	for _, teller := range tellers {
+		for _, r := range strange {
+			if c := teller.tell(r); c != api.L {
+				t.Errorf("%s(%d) = %d", teller.name, r, c)
+			}
 		}
 	}
 }
 
-// The document's ways: the lookup is made once, however many ask for it first at the same time.
-func TestLookupIsMadeOnce(t *testing.T) {
-	answers := make(chan api.Class)
-	const askers = 32
-	for i := range askers {
-		go func() { answers <- Class(0x5D0 + rune(i%4)) }()
+// The document's ways: the lookup in two stages.
+
+func TestLookUpTellsWhatClassTells(t *testing.T) {
+	for r := range everyRune {
+		if c, l := Class(r), LookUp(r); c != l {
+			t.Fatalf("Class(%X) = %d, LookUp(%X) = %d", r, c, r, l)
+		}
 	}
+}
+
+// forget lays the package's variables as they are when the program starts.
+func forget() {
+	once = sync.Once{}
+	builds.Store(0)
+	classes = lookup{}
+}
+
+func TestLookupIsMadeOnce(t *testing.T) {
+	forget()
+	const askers = 64
+	start := make(chan bool)
+	answers := make(chan api.Class)
+	for i := range askers {
+		go func() {
+			<-start
+			if i%8 == 0 && Builds() != 1 {
+				answers <- 0
+				return
+			}
+			answers <- LookUp(0x5D0 + rune(i%4))
+		}()
+	}
+	close(start)
 	for range askers {
 		if c := <-answers; c != api.R {
 			t.Errorf("class %d", c)
@@ -212,6 +239,47 @@ func TestLookupIsMadeOnce(t *testing.T) {
 	if n := builds.Load(); n != 1 {
 		t.Errorf("the lookup was made %d times", n)
 	}
+}
+
+func TestBuildsTellsOneWhoeverAsked(t *testing.T) {
+	forget()
+	if n := Builds(); n != 1 {
+		t.Errorf("asked first: %d", n)
+	}
+	LookUp(0x5D0)
+	LookUp(-1)
+	if n := Builds(); n != 1 {
+		t.Errorf("asked again: %d", n)
+	}
+	if c := LookUp(0x627); c != api.AL {
+		t.Errorf("class %d", c)
+	}
+}
+
+// What the four functions of the chapter answer hangs on no variable: neither do they fill the lookup, nor read it.
+func TestTheFourHangOnNoVariable(t *testing.T) {
+	forget()
+	defer forget()
+	ask := func(when string) {
+		if c := Class(0x5D0); c != api.R {
+			t.Errorf("%s: Class(5D0) = %d", when, c)
+		}
+		if r, open, ok := Bracket(0x2329); r != 0x3009 || !open || !ok {
+			t.Errorf("%s: Bracket(2329) = %X %v %v", when, r, open, ok)
+		}
+		if m, ok := Mirror(0x3C); m != 0x3E || !ok {
+			t.Errorf("%s: Mirror(3C) = %X %v", when, m, ok)
+		}
+		if !Space(0x20) {
+			t.Errorf("%s: Space(20) = false", when)
+		}
+	}
+	ask("at the start")
+	if n := builds.Load(); n != 0 || classes.blocks != nil {
+		t.Errorf("they made the lookup, %d times", n)
+	}
+	once.Do(func() {})
+	ask("with an empty lookup")
 }
 
 // P1.2
